@@ -2,6 +2,8 @@ package desk_test
 
 import (
 	"slices"
+	"strconv"
+	"strings"
 	"testing"
 
 	"kimberlite/api"
@@ -190,4 +192,42 @@ func TestPlayStops(t *testing.T) {
 		wantErrno(t, api.ErrRange, e)
 		wantPlayed(t, []int{0, 0, maxValue}, scripts, turns, want, e)
 	}
+}
+
+// steps are scripts, told by words of a letter, r, w or a, and an item.
+func steps(texts ...string) [][]api.Op {
+	var l [][]api.Op
+	for _, text := range texts {
+		var ops []api.Op
+		for _, word := range strings.Fields(text) {
+			item, _ := strconv.Atoi(word[1:])
+			ops = append(ops, api.Op{What: 1 + strings.IndexByte("rwa", word[0]), Item: item, Value: 1})
+		}
+		l = append(l, ops)
+	}
+	return l
+}
+
+// P9.5: clerks who die so often that another transaction would be one too many.
+func TestPlayFull(t *testing.T) {
+	scripts := steps(
+		"a6 r2 r1 w1 a2 a8 a6 a3 a10 a9 a5 a7",
+		"a2 a2 a8 a4 a3 a10 a9 a5 a7 a9 a0 a6",
+		"r2 w1 a1 a8 a4 a3 a10 a9 a5 a7 a2 a0",
+		"r5 r10 r0 w8 a3 a3 a9 a9 a7 a5 a0 w2",
+		"r0 r7 r9 r3 a0 r5 a10 a0 a5 a7 w2 r9",
+		"r7 r8 a9 a9 r8 w7 a4 a0 a4 a10 a5 w2",
+	)
+	values := make([]int, 11)
+	wantPlayed(t, values, scripts, nil, api.Outcome{}, api.ErrFull)
+	// With another step in one place, there are just as many as there may be.
+	scripts[2][11] = reads(0)
+	want, e := played(values, scripts, nil)
+	if want.Deaths != maxTxns-len(scripts) || e != api.OK {
+		t.Fatalf("%d deaths, error %d", want.Deaths, e)
+	}
+	wantPlayed(t, values, scripts, nil, want, api.OK)
+	// What is met first decides.
+	values[8] = maxValue
+	wantPlayed(t, values, scripts, nil, api.Outcome{}, api.ErrRange)
 }
